@@ -144,11 +144,15 @@ func (c canonModel) store(u impl.Type, v impl.Value, at int64) {
 			c.store(casesOf(u)[v.Num], v.Kids[0], at+offset)
 		}
 	case u.Kind != impl.TyUnit:
-		flat := c.lower(u, v)
-		width := extentModel(u).size / int64(len(flat))
-		for i, n := range flat {
-			c.putNumber(at+int64(i)*width, n, width)
-		}
+		c.putFlat(u, c.lower(u, v), at)
+	}
+}
+
+// putFlat stores the flat values of a value that has neither fields nor cases.
+func (c canonModel) putFlat(u impl.Type, flat []int64, at int64) {
+	width := extentModel(u).size / int64(len(flat))
+	for i, n := range flat {
+		c.putNumber(at+int64(i)*width, n, width)
 	}
 }
 
@@ -243,13 +247,18 @@ func (c canonModel) load(u impl.Type, at int64) impl.Value {
 		}
 		return v
 	}
+	return c.lift(u, c.flatAt(u, at))
+}
+
+// flatAt returns what putFlat stores.
+func (c canonModel) flatAt(u impl.Type, at int64) []int64 {
 	var flat []int64
 	many := int64(len(flatModel(u)))
 	for i := range many {
 		width := extentModel(u).size / many
 		flat = append(flat, c.getNumber(at+i*width, width, strings.HasPrefix(kindWords[u.Kind-1], "s")))
 	}
-	return c.lift(u, flat)
+	return flat
 }
 
 // loadAll returns the values of a tuple at an address.
