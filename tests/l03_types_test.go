@@ -604,6 +604,7 @@ func checkReadType(t *testing.T, s string) {
 }
 
 func TestP4ReadTypeModel(t *testing.T) {
+	t.Parallel()
 	for _, s := range slices.Concat(goodTypes, badTypes) {
 		for _, changed := range changes(s, " ,:<>{}()-_auU18\x00é") {
 			checkReadType(t, changed)

@@ -830,6 +830,7 @@ func TestP5SomeHandles(t *testing.T) {
 }
 
 func TestP1DeepValues(t *testing.T) {
+	t.Parallel()
 	circle := []impl.Value{{Kind: impl.TyList}, {Kind: impl.TyList}}
 	circle[0].Kids, circle[1].Kids = circle, circle[:1]
 	other := []impl.Value{{Kind: impl.TyList}, {Kind: impl.TyList}}

@@ -1090,6 +1090,7 @@ func TestP6PackageLimits(t *testing.T) {
 
 // TestP6PackageModel compares made-up packages and sources with the model.
 func TestP6PackageModel(t *testing.T) {
+	t.Parallel()
 	r := rand.New(rand.NewSource(63))
 	words := append(slices.Clone(someNames), "{", "}", "(", ")", "<", ">", ",", ";", ":", "=", ".", "/", "@", "_", "->", "1.2.3", "1.2", "thirteen-byte", "record", "variant", "enum", "tuple", "borrow")
 	valid := 0

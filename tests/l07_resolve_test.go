@@ -974,6 +974,7 @@ func (s *setMaker) world(x impl.Package, name string) impl.WorldDecl {
 
 // TestP7ResolveModel compares all functions with the model, and counts what has been found so that nothing is missed.
 func TestP7ResolveModel(t *testing.T) {
+	t.Parallel()
 	r := rand.New(rand.NewSource(72))
 	met := map[string]int{}
 	for i := range 400 {
@@ -1042,6 +1043,7 @@ func checkWorldModel(t *testing.T, met map[string]int, list []impl.Package, k in
 
 // TestP8Resolved checks what the guarantee says of interfaces and worlds, without the model.
 func TestP8Resolved(t *testing.T) {
+	t.Parallel()
 	r := rand.New(rand.NewSource(81))
 	used, named := 0, 0
 	for i := range 300 {
@@ -1286,6 +1288,7 @@ type resolveCase struct {
 }
 
 func TestP1Resolve(t *testing.T) {
+	t.Parallel()
 	r := rand.New(rand.NewSource(73))
 	call := func(c resolveCase) []any {
 		i, choice, problem := impl.PathIn(c.List, c.K, c.Path)

@@ -297,6 +297,7 @@ func TestP11Invalid(t *testing.T) {
 
 // TestP11Model has types and lists of types that are made up.
 func TestP11Model(t *testing.T) {
+	t.Parallel()
 	r := rand.New(rand.NewSource(94))
 	list := someTypes(95, 3000)
 	for _, s := range goodTypes {

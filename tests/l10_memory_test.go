@@ -657,6 +657,7 @@ type memoryCall struct {
 }
 
 func TestP1Memory(t *testing.T) {
+	t.Parallel()
 	call := func(c memoryCall) []any {
 		read, readCode := impl.ReadMem(c.M, c.At, c.Size)
 		written, writeCode := impl.WriteMem(c.M, c.At, c.Bytes)

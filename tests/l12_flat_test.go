@@ -423,6 +423,7 @@ func TestP14FromSmall(t *testing.T) {
 
 // TestP14BackAndForth converts every number of the small kinds, and many of the others, and back.
 func TestP14BackAndForth(t *testing.T) {
+	t.Parallel()
 	r := rand.New(rand.NewSource(127))
 	for kind := int64(1); kind <= 23; kind++ {
 		numbers := numbers()
@@ -476,6 +477,7 @@ type flatCall struct {
 }
 
 func TestP1Flat(t *testing.T) {
+	t.Parallel()
 	r := rand.New(rand.NewSource(128))
 	call := func(c flatCall) []any {
 		number, ok := impl.FromSmall(c.Kind, c.N)

@@ -1137,6 +1137,7 @@ func canonTypes(t *testing.T, seed int64, many int) []impl.Type {
 
 // TestP15LowerModel lowers and stores values that are made up, and lifts and loads them again.
 func TestP15LowerModel(t *testing.T) {
+	t.Parallel()
 	r := rand.New(rand.NewSource(132))
 	met := map[string]int{}
 	for _, u := range canonTypes(t, 133, 1500) {
@@ -1230,6 +1231,7 @@ func spoilt(r *rand.Rand, m impl.Memory) impl.Memory {
 
 // TestP15ParamsModel lowers and lifts parameter lists that are made up.
 func TestP15ParamsModel(t *testing.T) {
+	t.Parallel()
 	r := rand.New(rand.NewSource(136))
 	list := canonTypes(t, 137, 1500)
 	numbers := numbers()
@@ -1445,6 +1447,7 @@ func TestP1DeepCanon(t *testing.T) {
 }
 
 func TestP1Canon(t *testing.T) {
+	t.Parallel()
 	r := rand.New(rand.NewSource(141))
 	list := numbers()
 	types := canonTypes(t, 142, 800)

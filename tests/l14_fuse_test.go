@@ -419,6 +419,7 @@ func checkRuns(t *testing.T, moves []impl.Move) {
 
 // TestP16MovesModel has types and lists of types that are made up.
 func TestP16MovesModel(t *testing.T) {
+	t.Parallel()
 	r := rand.New(rand.NewSource(141))
 	list := canonTypes(t, 142, 1500)
 	for _, u := range list {
@@ -1084,6 +1085,7 @@ func passedModel(us []impl.Type) string {
 
 // TestP16Model transfers values that are made up.
 func TestP16Model(t *testing.T) {
+	t.Parallel()
 	r := rand.New(rand.NewSource(143))
 	list, numbers := fuseTypes(t, 144, 500), numbers()
 	met := map[string]int{}
@@ -1229,6 +1231,7 @@ func (c fuseCall) results() []any {
 }
 
 func TestP1Fuse(t *testing.T) {
+	t.Parallel()
 	r := rand.New(rand.NewSource(145))
 	list, numbers := fuseTypes(t, 146, 300), numbers()
 	for range 2500 {

@@ -372,6 +372,7 @@ func TestP17Instructions(t *testing.T) {
 }
 
 func TestP17ReadIns(t *testing.T) {
+	t.Parallel()
 	for _, s := range []string{"const 01", "add 0", "", " ", "const", "const ", "add ", " add", "ADD", "Add", "addd", "ad", "add\n", "add\r", "const 1\n", "const\t1", "const  1", "const 1 ", " const 1", "const 1 1", "const 1 x", "const x", "const 0x1", "const 1e1", "const 1_0", "const --1", "const 1-", "const -", "const +", "const +0", "const -0", "const +1", "const -01", "const 00", "const 9223372036854775808", "const -9223372036854775809", "const 18446744073709551615", "const 18446744073709551616", "const 99999999999999999999999999", "const -99999999999999999999999999", "const 1.0", "const \xff", "const \u0661", "get", "get -1", "get 16", "get 00", "block", "block 2", "br 7", "call 8", "host 12", "load8 4097", "store64 4097", "store64 -1", "load16 1", "brif", "br if 1", "module 1", "import a 0 0", "core a 0 0 0", "0", "1 1", "unit"} {
 		x, ok := impl.ReadIns(s)
 		is(t, "ReadIns of "+strconv.Quote(s), all(x, ok), impl.Ins{}, false)

@@ -896,6 +896,7 @@ func TestP18Targets(t *testing.T) {
 
 // TestP18EveryCode has all codes of up to so many of a few instructions.
 func TestP18EveryCode(t *testing.T) {
+	t.Parallel()
 	met := map[int64]int{}
 	m := coreIn(t, 1, 0, false, "")
 	m.Cores = m.Cores[1:2]
@@ -980,6 +981,7 @@ func finish(m impl.Module, k int) {
 
 // TestP18Model has codes that are made up so that they have no error, and then changed a little.
 func TestP18Model(t *testing.T) {
+	t.Parallel()
 	r := rand.New(rand.NewSource(161))
 	met, valid, positions := map[int64]int{}, 0, 0
 	words := map[string]int{}
